@@ -4,24 +4,17 @@ import (
 	"strconv"
 
 	"triad/api"
+	"triad/row"
 	"triad/term"
 )
 
-// prefix is the reference that a prefix stands for.
-type prefix struct{ ref string }
-
-// reader is a document on its way.
-//
-// Of its errors the first one stays: behind it no token is left, so that whoever reads on comes to an end, and nothing
-// is told any more.
+// reader is a document on its way. Behind its row's first fault nothing is told any more.
 type reader struct {
-	rest     []api.Token
-	base     string
-	prefixes map[string]prefix // by their names, with the ':'
-	fresh    func() api.Term   // a new blank
-	deep     int
-	told     []api.Triple
-	e        api.Errno
+	*row.Row
+	base  string
+	fresh func() api.Term // a new blank
+	deep  int
+	told  []api.Triple
 }
 
 // numbered makes blanks, of which each has the next number.
@@ -33,57 +26,18 @@ func numbered(label string) func() api.Term {
 	}
 }
 
-func (r *reader) fail(e api.Errno) {
-	if r.e == api.OK {
-		r.rest, r.told, r.e = nil, nil, e
-	}
-}
-
 // tell puts a triple to those that are told. That it is one too many goes ahead of what it has wrong.
 func (r *reader) tell(s, p, o api.Term) {
 	if len(r.told) == api.MaxGraph {
-		r.fail(api.ErrMany)
+		r.Fail(api.ErrMany)
 	}
 	t := api.Triple{s, p, o}
 	e := term.Fits(t)
 	if e != api.OK {
-		r.fail(e)
+		r.Fail(e)
 	}
-	if r.e == api.OK {
+	if r.Fault() == api.OK {
 		r.told = append(r.told, t)
-	}
-}
-
-// peek is the next token; of no kind, which fits nowhere, if there is none.
-func (r *reader) peek() api.Token {
-	if len(r.rest) == 0 {
-		return api.Token{}
-	}
-	return r.rest[0]
-}
-
-// next is peek, and goes past it.
-func (r *reader) next() api.Token {
-	t := r.peek()
-	if len(r.rest) > 0 {
-		r.rest = r.rest[1:]
-	}
-	return t
-}
-
-// take goes past a sign, if it is the next token.
-func (r *reader) take(s string) bool {
-	there := r.peek() == sign(s)
-	if there {
-		r.next()
-	}
-	return there
-}
-
-// need goes past a sign that must stand here.
-func (r *reader) need(s string) {
-	if !r.take(s) {
-		r.fail(api.ErrWord)
 	}
 }
 
@@ -91,7 +45,7 @@ func (r *reader) need(s string) {
 func (r *reader) deeper(read func() api.Term) api.Term {
 	r.deep++
 	if r.deep > api.MaxDeep {
-		r.fail(api.ErrDeep)
+		r.Fail(api.ErrDeep)
 	}
 	t := read()
 	r.deep--
@@ -99,7 +53,3 @@ func (r *reader) deeper(read func() api.Term) api.Term {
 }
 
 func lang(s string) api.Token { return api.Token{Kind: api.TLang, S: s} }
-
-func word(s string) api.Token { return api.Token{Kind: api.TWord, S: s} }
-
-func sign(s string) api.Token { return api.Token{Kind: api.TSign, S: s} }
